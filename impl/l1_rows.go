@@ -58,6 +58,21 @@ func (d digits) inverse() digits {
 	return turned
 }
 
+func (d digits) isHome(bell int) bool {
+	return int(d[bell-1]-'0') == bell
+}
+
+// homeBells returns the bells that are in their own places.
+func (d digits) homeBells() []int {
+	var bells []int
+	for bell := 1; bell <= d.stage(); bell++ {
+		if d.isHome(bell) {
+			bells = append(bells, bell)
+		}
+	}
+	return bells
+}
+
 func (d digits) order() int {
 	rounds := roundsDigits(d.stage())
 	k := 1
