@@ -1,5 +1,7 @@
 package impl
 
+import "bytes"
+
 const MinStage = 3
 const MaxStage = 8
 const MaxRows = 800
@@ -60,6 +62,10 @@ func (d digits) inverse() digits {
 
 func (d digits) isHome(bell int) bool {
 	return int(d[bell-1]-'0') == bell
+}
+
+func (d digits) placeOf(bell int) int {
+	return bytes.IndexByte(d[:], byte('0'+bell)) + 1
 }
 
 // homeBells returns the bells that are in their own places.
