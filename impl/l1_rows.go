@@ -107,6 +107,16 @@ func (d digits) smallerAfter(i int) int {
 	return count
 }
 
+// rank counts the rows of the stage that come before d.
+func (d digits) rank() int {
+	rank := 0
+	n := d.stage()
+	for i := range n {
+		rank += d.smallerAfter(i) * factorial(n-1-i)
+	}
+	return rank
+}
+
 func factorial(n int) int {
 	product := 1
 	for i := range n {
@@ -232,9 +242,5 @@ func PlaceOfRow(r string) (int, bool) {
 	if !ok {
 		return 0, false
 	}
-	place := 0
-	for i := range len(r) {
-		place += d.smallerAfter(i) * factorial(len(r)-1-i)
-	}
-	return place, true
+	return d.rank(), true
 }
