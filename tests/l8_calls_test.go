@@ -99,6 +99,27 @@ func badPairs(n int) []impl.Calls {
 	return pairs
 }
 
+// pairsOfStage are a few pairs of calls, valid ones among them if the stage is valid.
+func pairsOfStage(n int) []impl.Calls {
+	pairs := []impl.Calls{{}, {Bob: "14", Single: "12"}, {Bob: "-", Single: "-"}, {Bob: "1", Single: "3"}}
+	if n >= 3 && n <= 8 {
+		pairs = append(pairs, allCalls(n)[0])
+	}
+	return pairs
+}
+
+// allMethodsAndPairs are methods and pairs of calls, valid ones, others and very long ones.
+func allMethodsAndPairs() ([]impl.Method, []impl.Calls) {
+	methods := append(badMethods(), plainBob(), impl.Method{Name: strings.Repeat("a", 1<<20), Stage: 4, Changes: repeated("-", 1<<16)})
+	pairs := []impl.Calls{{}, {Bob: "14", Single: "12"}, {Bob: strings.Repeat("14", 1<<16), Single: "\xff"}}
+	for n := 3; n <= 8; n++ {
+		methods = append(methods, methodsWith(n, randomLists(n, 1))...)
+		pairs = append(pairs, badPairs(n)[:20]...)
+		pairs = append(pairs, allCalls(n)[:4]...)
+	}
+	return methods, pairs
+}
+
 // callCallFunctions calls every function of chapter 8 and returns what they return.
 func callCallFunctions(m impl.Method, k impl.Calls, a, b string) []any {
 	good := impl.GoodCalls(m, k)
@@ -404,11 +425,7 @@ func TestInvalidCallsGiveZeroValues(t *testing.T) {
 
 func TestCallsOfInvalidMethodsGiveZeroValues(t *testing.T) {
 	for i, m := range badMethods() {
-		pairs := []impl.Calls{{}, {Bob: "14", Single: "12"}, {Bob: "-", Single: "-"}, {Bob: "1", Single: "3"}}
-		if m.Stage >= 3 && m.Stage <= 8 {
-			pairs = append(pairs, allCalls(m.Stage)[0])
-		}
-		for j, k := range pairs {
+		for j, k := range pairsOfStage(m.Stage) {
 			a, b := letters[j%3], letters[(i+j/3)%3]
 			if results := callCallFunctions(m, k, a, b); !allZero(results) {
 				t.Errorf("with %v, %q, %q and %q the functions return %v", m, k, a, b, results)
@@ -468,13 +485,7 @@ func TestCallResultsShareNoMemoryWithTheirArguments(t *testing.T) {
 }
 
 func TestCallFunctionsAcceptAllArguments(t *testing.T) {
-	methods := append(badMethods(), plainBob(), impl.Method{Name: strings.Repeat("a", 1<<20), Stage: 4, Changes: repeated("-", 1<<16)})
-	pairs := []impl.Calls{{}, {Bob: "14", Single: "12"}, {Bob: strings.Repeat("14", 1<<16), Single: "\xff"}}
-	for n := 3; n <= 8; n++ {
-		methods = append(methods, methodsWith(n, randomLists(n, 1))...)
-		pairs = append(pairs, badPairs(n)[:20]...)
-		pairs = append(pairs, allCalls(n)[:4]...)
-	}
+	methods, pairs := allMethodsAndPairs()
 	calls := append(badCalls(), letters...)
 	for i, m := range methods {
 		changes, back := withSpareRows(m.Changes)
